@@ -265,24 +265,24 @@ func digitsOf(bits uint64, count int) string {
 
 // ReadBits returns the number with a text.
 func ReadBits(text string) (complex128, int64) {
-	first, second, _ := strings.Cut(text, " ")
-	a, isFirst := readReal(first)
-	b, isSecond := readReal(second)
-	if !isFirst || !isSecond {
-		return 0, ErrSyntax
-	}
-	return complex(a, b), OK
+	a, b, code := readParts(text, readReal)
+	return complex(a, b), code
 }
 
 // ReadNarrowBits returns the narrow number with a text.
 func ReadNarrowBits(text string) (complex64, int64) {
+	a, b, code := readParts(text, readNarrowReal)
+	return complex(a, b), code
+}
+
+func readParts[R float32 | float64](text string, read func(string) (R, bool)) (R, R, int64) {
 	first, second, _ := strings.Cut(text, " ")
-	a, isFirst := readNarrowReal(first)
-	b, isSecond := readNarrowReal(second)
+	a, isFirst := read(first)
+	b, isSecond := read(second)
 	if !isFirst || !isSecond {
-		return 0, ErrSyntax
+		return 0, 0, ErrSyntax
 	}
-	return complex(a, b), OK
+	return a, b, OK
 }
 
 func readReal(text string) (float64, bool) {
