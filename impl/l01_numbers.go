@@ -92,6 +92,11 @@ func (n number[T]) over(m number[T]) T {
 // narrow ones in the same way.
 func (n number[T]) overByOperator(m number[T]) T { return T(n.wide() / m.wide()) }
 
+func (n number[T]) conjugate() T {
+	a, b := n.parts()
+	return T(complex(a, -b))
+}
+
 func (n number[T]) square() float64 {
 	a, b := n.parts()
 	return float64(a*a) + float64(b*b)
@@ -171,7 +176,7 @@ func GoQuotient(x, y complex128) complex128 { return numberOf(x).overByOperator(
 func GoNarrowQuotient(x, y complex64) complex64 { return numberOf(x).overByOperator(numberOf(y)) }
 
 // Conjugate returns the conjugate.
-func Conjugate(x complex128) complex128 { return complex(real(x), -imag(x)) }
+func Conjugate(x complex128) complex128 { return numberOf(x).conjugate() }
 
 // SquareOf returns the square of the size.
 func SquareOf(x complex128) float64 { return numberOf(x).square() }
@@ -402,8 +407,8 @@ func isRealWithin(a, b float64, units int64) bool {
 	return code == OK && apart <= units
 }
 
-// checkPair returns the error of functions of two signals of the same length.
-func checkPair(x, y []complex128) int64 {
+// checkPair returns the error of functions of two lists of the same length.
+func checkPair[T any](x, y []T) int64 {
 	if len(x) > MaxSignal || len(y) > MaxSignal {
 		return ErrLimit
 	}
@@ -426,7 +431,7 @@ func mapSignal[T complex64 | complex128, R any](x []T, change func(T) R) ([]R, i
 }
 
 // sumOfTerms begins with the first term: 0 ahead of it would make 0 of -0.
-func sumOfTerms[T float64 | complex128](terms []T) T {
+func sumOfTerms[T float64 | complex64 | complex128](terms []T) T {
 	if len(terms) == 0 {
 		return 0
 	}

@@ -1,6 +1,7 @@
 package tests
 
 import (
+	"maps"
 	"math"
 	"slices"
 	"strings"
@@ -79,6 +80,19 @@ func valueFunctions() map[string]func(x, y []complex128) (string, int64) {
 	}
 }
 
+// allSignalFunctions and allValueFunctions are those of all chapters.
+func allSignalFunctions() map[string]func(x, y []complex128) ([]complex128, int64) {
+	all := signalFunctions()
+	maps.Copy(all, transformFunctions())
+	return all
+}
+
+func allValueFunctions() map[string]func(x, y []complex128) (string, int64) {
+	all := valueFunctions()
+	maps.Copy(all, boundFunctions())
+	return all
+}
+
 func TestPromise1SignalsStayAsTheyAre(t *testing.T) {
 	x, y := withRoom(mixedSignal()), withRoom(mixedSignal())
 	slices.Reverse(y)
@@ -89,7 +103,7 @@ func TestPromise1SignalsStayAsTheyAre(t *testing.T) {
 			t.Errorf("%s: an argument was modified", name)
 		}
 	}
-	for name, run := range signalFunctions() {
+	for name, run := range allSignalFunctions() {
 		one, first := run(x, y)
 		check(name)
 		two, second := run(x, y)
@@ -103,7 +117,7 @@ func TestPromise1SignalsStayAsTheyAre(t *testing.T) {
 			t.Errorf("%s: a result shares memory", name)
 		}
 	}
-	for name, run := range valueFunctions() {
+	for name, run := range allValueFunctions() {
 		one, first := run(x, y)
 		check(name)
 		two, second := run(x, y)
@@ -163,7 +177,7 @@ func TestPromise1NumbersOfAnyKind(t *testing.T) {
 func TestPromise1NilAndEmptySignals(t *testing.T) {
 	for _, x := range [][]complex128{nil, {}} {
 		for _, y := range [][]complex128{nil, {}} {
-			for name, run := range signalFunctions() {
+			for name, run := range allSignalFunctions() {
 				got, code := run(x, y)
 				wantSignal(t, name+" of nothing", got, code)
 			}
@@ -189,7 +203,7 @@ func TestPromise1NilAndEmptySignals(t *testing.T) {
 
 func TestPromise1VeryLongArguments(t *testing.T) {
 	x := make([]complex128, 500000)
-	for name, run := range signalFunctions() {
+	for name, run := range allSignalFunctions() {
 		got, code := run(x, x)
 		wantCode(t, name, got, code, impl.ErrLimit)
 	}
