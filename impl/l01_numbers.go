@@ -408,7 +408,7 @@ func isRealWithin(a, b float64, units int64) bool {
 }
 
 // checkPair returns the error of functions of two lists of the same length.
-func checkPair[T any](x, y []T) int64 {
+func checkPair[X, Y any](x []X, y []Y) int64 {
 	if len(x) > MaxSignal || len(y) > MaxSignal {
 		return ErrLimit
 	}
@@ -419,7 +419,7 @@ func checkPair[T any](x, y []T) int64 {
 }
 
 // mapSignal returns the list of what is made of each number of a signal.
-func mapSignal[T complex64 | complex128, R any](x []T, change func(T) R) ([]R, int64) {
+func mapSignal[T float64 | complex64 | complex128, R any](x []T, change func(T) R) ([]R, int64) {
 	if len(x) > MaxSignal {
 		return nil, ErrLimit
 	}
