@@ -84,12 +84,14 @@ func valueFunctions() map[string]func(x, y []complex128) (string, int64) {
 func allSignalFunctions() map[string]func(x, y []complex128) ([]complex128, int64) {
 	all := signalFunctions()
 	maps.Copy(all, transformFunctions())
+	maps.Copy(all, convolutionFunctions())
 	return all
 }
 
 func allValueFunctions() map[string]func(x, y []complex128) (string, int64) {
 	all := valueFunctions()
 	maps.Copy(all, boundFunctions())
+	maps.Copy(all, lagFunctions())
 	return all
 }
 

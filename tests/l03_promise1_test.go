@@ -8,8 +8,8 @@ import (
 	"loop.example/g01155/impl"
 )
 
-// given has arguments for all functions of chapter 3; whatever is a slice has
-// numbers behind it that must stay as well.
+// given has arguments for all functions of chapters 3 and 4; whatever is a slice
+// has numbers behind it that must stay as well.
 type given struct {
 	x            []complex128
 	w            []float64
@@ -17,6 +17,7 @@ type given struct {
 	narrowWindow []float32
 	blocks       [][]complex128
 	adder        impl.Adder
+	filter       impl.Filter
 }
 
 func someGiven() given {
@@ -27,6 +28,7 @@ func someGiven() given {
 	return given{
 		x: x, w: w, narrow: append(narrowed(y), 7, 8i)[:6], narrowWindow: narrowWindow,
 		blocks: blocks, adder: impl.Adder{Size: 6, Hop: 2, Tail: withRoom(x)[:4]},
+		filter: impl.Filter{Taps: withRoom(y), Past: withRoom(x)[:4]},
 	}
 }
 
@@ -41,6 +43,9 @@ func (g given) text() string {
 	}
 	for _, block := range g.blocks[:cap(g.blocks)] {
 		text += fmt.Sprintf(" %d %x", len(block), bitsOf(block[:cap(block)]))
+	}
+	for _, list := range [][]complex128{g.filter.Taps, g.filter.Past} {
+		text += fmt.Sprintf(" %d %x", len(list), bitsOf(list[:cap(list)]))
 	}
 	tail := g.adder.Tail
 	return text + fmt.Sprintf(" %d %d %d %x", g.adder.Size, g.adder.Hop, len(tail), bitsOf(tail[:cap(tail)]))
@@ -118,6 +123,8 @@ func piecesOf(results []any) []piece {
 			}
 		case impl.Adder:
 			pieces = append(pieces, pieceOf(list.Tail, 9i))
+		case impl.Filter:
+			pieces = append(pieces, pieceOf(list.Taps, 9i), pieceOf(list.Past, 9i))
 		}
 	}
 	return pieces
@@ -125,19 +132,26 @@ func piecesOf(results []any) []piece {
 
 func TestPromise1WindowsAndBlocksStayAsTheyAre(t *testing.T) {
 	for name, run := range windowCalls() {
-		g := someGiven()
-		before := g.text()
-		results := run(g)
-		first := fmt.Sprintf("%x", results)
-		want(t, name+": arguments", g.text(), before)
-		want(t, name+": code", lastCode(results), impl.OK)
-		for i := range piecesOf(results) {
-			wantAlone(t, name, piecesOf(run(g)), i)
-		}
-		want(t, name+": arguments, results overwritten", g.text(), before)
-		want(t, name+": called again", fmt.Sprintf("%x", run(g)), first)
-		want(t, name+": arguments, called again", g.text(), before)
+		wantStays(t, name, run)
 	}
+}
+
+// wantStays asks that a function tells the same again, modifies nothing that is
+// given, and hands out no memory of it, nor the same memory twice.
+func wantStays(t *testing.T, name string, run func(g given) []any) {
+	t.Helper()
+	g := someGiven()
+	before := g.text()
+	results := run(g)
+	first := fmt.Sprintf("%x", results)
+	want(t, name+": arguments", g.text(), before)
+	want(t, name+": code", lastCode(results), impl.OK)
+	for i := range piecesOf(results) {
+		wantAlone(t, name, piecesOf(run(g)), i)
+	}
+	want(t, name+": arguments, results overwritten", g.text(), before)
+	want(t, name+": called again", fmt.Sprintf("%x", run(g)), first)
+	want(t, name+": arguments, called again", g.text(), before)
 }
 
 // wantAlone asks that what is written to a piece is seen in no other one.
