@@ -85,6 +85,7 @@ func allSignalFunctions() map[string]func(x, y []complex128) ([]complex128, int6
 	all := signalFunctions()
 	maps.Copy(all, transformFunctions())
 	maps.Copy(all, convolutionFunctions())
+	maps.Copy(all, bankFunctions())
 	return all
 }
 
@@ -92,6 +93,7 @@ func allValueFunctions() map[string]func(x, y []complex128) (string, int64) {
 	all := valueFunctions()
 	maps.Copy(all, boundFunctions())
 	maps.Copy(all, lagFunctions())
+	maps.Copy(all, bandFunctions())
 	return all
 }
 
