@@ -347,9 +347,12 @@ func TestPromise13JoinTreeErrors(t *testing.T) {
 		{[]int{2, 3, 257}, impl.ErrLimit}, {[]int{257, 1}, impl.ErrLimit},
 		// Whichever comes first, level by level.
 		{[]int{2, 3, 256}, impl.ErrRange}, {[]int{1, 1, 4, 256}, impl.ErrRange}, {[]int{129, 128, 1}, impl.ErrLimit}, {[]int{128, 128, 256, 3}, impl.ErrLimit}, {[]int{64, 64, 128, 256}, impl.ErrLimit},
-		{[]int{1, 1, 2, 4, 9, 256}, impl.ErrRange}, {[]int{64, 64, 128, 1}, impl.ErrLimit}, {[]int{64, 64, 127, 1}, impl.ErrRange},
-		// Both at one level: as for two bands.
-		{[]int{200, 100}, impl.ErrLimit}, {[]int{128, 129}, impl.ErrLimit}, {[]int{1, 256}, impl.ErrLimit},
+		{[]int{1, 1, 2, 4, 9, 256}, impl.ErrRange}, {[]int{64, 64, 128, 1}, impl.ErrRange}, {[]int{64, 64, 127, 1}, impl.ErrRange},
+		// Both at one level: bands that cannot be joined come ahead of those that
+		// are too long together.
+		{[]int{200, 100}, impl.ErrRange}, {[]int{100, 200}, impl.ErrRange}, {[]int{128, 129}, impl.ErrRange}, {[]int{130, 128}, impl.ErrRange}, {[]int{1, 256}, impl.ErrRange}, {[]int{256, 256}, impl.ErrLimit}, {[]int{256, 255}, impl.ErrLimit},
+		{[]int{80, 80, 100}, impl.ErrRange}, {[]int{128, 128, 200}, impl.ErrRange}, {[]int{80, 80, 160}, impl.ErrLimit}, {[]int{80, 80, 159}, impl.ErrLimit}, {[]int{80, 80, 161}, impl.ErrRange}, {[]int{80, 80, 158}, impl.ErrRange},
+		{[]int{70, 70, 140, 200}, impl.ErrLimit}, {[]int{70, 70, 138, 200}, impl.ErrRange}, {[]int{2, 2, 4, 8, 16, 32, 256}, impl.ErrRange}, {[]int{200, 100, 257}, impl.ErrLimit},
 	} {
 		var bands [][]complex128
 		total := 0
