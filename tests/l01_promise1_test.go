@@ -94,6 +94,7 @@ func allValueFunctions() map[string]func(x, y []complex128) (string, int64) {
 	maps.Copy(all, boundFunctions())
 	maps.Copy(all, lagFunctions())
 	maps.Copy(all, bandFunctions())
+	maps.Copy(all, spectrumFunctions())
 	return all
 }
 

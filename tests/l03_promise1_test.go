@@ -8,7 +8,7 @@ import (
 	"loop.example/g01155/impl"
 )
 
-// given has arguments for all functions of chapters 3 to 5; whatever is a slice
+// given has arguments for all functions of chapters 3 to 6; whatever is a slice
 // has numbers behind it that must stay as well.
 type given struct {
 	x            []complex128
@@ -112,6 +112,8 @@ func piecesOf(results []any) []piece {
 		case []float64:
 			pieces = append(pieces, pieceOf(list, 9))
 		case []float32:
+			pieces = append(pieces, pieceOf(list, 9))
+		case []int64:
 			pieces = append(pieces, pieceOf(list, 9))
 		case []complex64:
 			pieces = append(pieces, pieceOf(list, 9i))
