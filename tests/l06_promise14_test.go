@@ -212,7 +212,7 @@ func TestPromise14AverageErrors(t *testing.T) {
 		{1, 1, 1, 1, ok, ok}, {5, 5, 4, 4, ok, ok}, {256, 256, 256, 256, ok, ok}, {64, 64, 1, 1, ok, ok}, {67, 67, 4, 1, ok, ok}, {256, 256, 4, 4, ok, ok},
 		{0, 0, 1, 1, state, state}, {0, 0, 256, 1, state, state}, {0, 0, 4, 4, state, state}, {0, 0, 4, 5, ran, ran}, {0, 0, 4, 0, ran, ran}, {0, 0, 0, 0, ran, ran}, {0, 0, 257, 1, lim, lim},
 		{0, 1, 4, 4, state, ran}, {1, 0, 4, 4, ok, ran}, {0, 256, 4, 4, state, ran}, {5, 4, 4, 4, ok, ran}, {5, 6, 4, 9, ran, ran}, {5, 6, 257, 1, lim, lim}, {5, 257, 4, 4, ok, lim}, {257, 5, 4, 4, lim, lim},
-		{0, 257, 4, 4, state, lim}, {257, 0, 0, 0, lim, lim}, {257, 257, 4, 4, lim, lim}, {257, 257, 0, 0, lim, lim}, {256, 257, 300 - 43, 0, lim, lim},
+		{0, 257, 4, 4, state, lim}, {257, 0, 0, 0, lim, lim}, {257, 257, 4, 4, lim, lim}, {257, 257, 0, 0, lim, lim}, {256, 257, 257, 0, lim, lim}, {256, 257, 256, 0, ran, lim},
 		{65, 65, 1, 1, lim, lim}, {65, 64, 1, 1, lim, ran}, {64, 65, 1, 1, ok, ran}, {68, 68, 4, 1, lim, lim}, {256, 256, 4, 3, lim, lim}, {68, 67, 4, 1, lim, ran},
 		{5, 5, 4, 5, ran, ran}, {5, 5, 4, 0, ran, ran}, {5, 5, 4, -1, ran, ran}, {5, 5, 0, 1, ran, ran}, {5, 5, 4, math.MaxInt64, ran, ran}, {5, 5, 4, math.MinInt64, ran, ran}, {65, 65, 1, 2, ran, ran},
 	} {

@@ -401,8 +401,10 @@ func TestPromise15BinErrors(t *testing.T) {
 			bin, code := impl.BinOf(x[:n], k)
 			name := fmt.Sprintf("BinOf %d numbers at %d", n, k)
 			want(t, name+": code", code, expected)
-			if expected != impl.OK || k == 0 {
-				wantSame(t, name, bin, complex(float64(n)*float64(1-min(expected, 1)), 0))
+			if expected != impl.OK {
+				wantSame(t, name, bin, 0)
+			} else if k == 0 {
+				wantSame(t, name, bin, complex(float64(n), 0))
 			}
 		}
 	}
