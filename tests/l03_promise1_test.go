@@ -8,7 +8,7 @@ import (
 	"loop.example/g01155/impl"
 )
 
-// given has arguments for all functions of chapters 3 to 6; whatever is a slice
+// given has arguments for all functions of chapters 3 to 7; whatever is a slice
 // has numbers behind it that must stay as well.
 type given struct {
 	x            []complex128
@@ -18,6 +18,7 @@ type given struct {
 	blocks       [][]complex128
 	adder        impl.Adder
 	filter       impl.Filter
+	plan         impl.Plan
 }
 
 func someGiven() given {
@@ -28,7 +29,7 @@ func someGiven() given {
 	return given{
 		x: x, w: w, narrow: append(narrowed(y), 7, 8i)[:6], narrowWindow: narrowWindow,
 		blocks: blocks, adder: impl.Adder{Size: 6, Hop: 2, Tail: withRoom(x)[:4]},
-		filter: impl.Filter{Taps: withRoom(y), Past: withRoom(x)[:4]},
+		filter: impl.Filter{Taps: withRoom(y), Past: withRoom(x)[:4]}, plan: planWithRoom(),
 	}
 }
 
@@ -48,7 +49,8 @@ func (g given) text() string {
 		text += fmt.Sprintf(" %d %x", len(list), bitsOf(list[:cap(list)]))
 	}
 	tail := g.adder.Tail
-	return text + fmt.Sprintf(" %d %d %d %x", g.adder.Size, g.adder.Hop, len(tail), bitsOf(tail[:cap(tail)]))
+	text += fmt.Sprintf(" %d %d %d %x", g.adder.Size, g.adder.Hop, len(tail), bitsOf(tail[:cap(tail)]))
+	return text + planTextUpTo(g.plan)
 }
 
 func pack(results ...any) []any { return results }
@@ -127,6 +129,10 @@ func piecesOf(results []any) []piece {
 			pieces = append(pieces, pieceOf(list.Tail, 9i))
 		case impl.Filter:
 			pieces = append(pieces, pieceOf(list.Taps, 9i), pieceOf(list.Past, 9i))
+		case impl.Step:
+			pieces = append(pieces, pieceOf(list.Taps, 9))
+		case impl.Plan:
+			pieces = append(pieces, piecesOfPlan(list)...)
 		}
 	}
 	return pieces
