@@ -8,7 +8,7 @@ import (
 	"loop.example/g01155/impl"
 )
 
-// given has arguments for all functions of chapters 3 to 7; whatever is a slice
+// given has arguments for all functions of chapters 3 to 8; whatever is a slice
 // has numbers behind it that must stay as well.
 type given struct {
 	x            []complex128
@@ -19,6 +19,7 @@ type given struct {
 	adder        impl.Adder
 	filter       impl.Filter
 	plan         impl.Plan
+	engine       impl.Engine
 }
 
 func someGiven() given {
@@ -30,6 +31,7 @@ func someGiven() given {
 		x: x, w: w, narrow: append(narrowed(y), 7, 8i)[:6], narrowWindow: narrowWindow,
 		blocks: blocks, adder: impl.Adder{Size: 6, Hop: 2, Tail: withRoom(x)[:4]},
 		filter: impl.Filter{Taps: withRoom(y), Past: withRoom(x)[:4]}, plan: planWithRoom(),
+		engine: engineWithRoom(),
 	}
 }
 
@@ -50,7 +52,7 @@ func (g given) text() string {
 	}
 	tail := g.adder.Tail
 	text += fmt.Sprintf(" %d %d %d %x", g.adder.Size, g.adder.Hop, len(tail), bitsOf(tail[:cap(tail)]))
-	return text + planTextUpTo(g.plan)
+	return text + planTextUpTo(g.plan) + engineTextUpTo(g.engine)
 }
 
 func pack(results ...any) []any { return results }
@@ -133,6 +135,8 @@ func piecesOf(results []any) []piece {
 			pieces = append(pieces, pieceOf(list.Taps, 9))
 		case impl.Plan:
 			pieces = append(pieces, piecesOfPlan(list)...)
+		case impl.Engine:
+			pieces = append(pieces, piecesOfEngine(list)...)
 		}
 	}
 	return pieces
