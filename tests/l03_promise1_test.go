@@ -8,7 +8,7 @@ import (
 	"loop.example/g01155/impl"
 )
 
-// given has arguments for all functions of chapters 3 to 8; whatever is a slice
+// given has arguments for all functions of chapters 3 to 9; whatever is a slice
 // has numbers behind it that must stay as well.
 type given struct {
 	x            []complex128
@@ -20,6 +20,9 @@ type given struct {
 	filter       impl.Filter
 	plan         impl.Plan
 	engine       impl.Engine
+	studio       impl.Studio
+	records      []impl.Record
+	deeds        []impl.Deed
 }
 
 func someGiven() given {
@@ -31,7 +34,7 @@ func someGiven() given {
 		x: x, w: w, narrow: append(narrowed(y), 7, 8i)[:6], narrowWindow: narrowWindow,
 		blocks: blocks, adder: impl.Adder{Size: 6, Hop: 2, Tail: withRoom(x)[:4]},
 		filter: impl.Filter{Taps: withRoom(y), Past: withRoom(x)[:4]}, plan: planWithRoom(),
-		engine: engineWithRoom(),
+		engine: engineWithRoom(), studio: studioWithRoom(), records: recordsWithRoom(), deeds: deedsWithRoom(),
 	}
 }
 
@@ -52,7 +55,7 @@ func (g given) text() string {
 	}
 	tail := g.adder.Tail
 	text += fmt.Sprintf(" %d %d %d %x", g.adder.Size, g.adder.Hop, len(tail), bitsOf(tail[:cap(tail)]))
-	return text + planTextUpTo(g.plan) + engineTextUpTo(g.engine)
+	return text + planTextUpTo(g.plan) + engineTextUpTo(g.engine) + storeTextUpTo(g)
 }
 
 func pack(results ...any) []any { return results }
@@ -137,6 +140,8 @@ func piecesOf(results []any) []piece {
 			pieces = append(pieces, piecesOfPlan(list)...)
 		case impl.Engine:
 			pieces = append(pieces, piecesOfEngine(list)...)
+		default:
+			pieces = append(pieces, piecesOfStore(each)...)
 		}
 	}
 	return pieces
